@@ -1,0 +1,154 @@
+package promises
+
+import (
+	"encoding/binary"
+	"math/bits"
+
+	"frames/api"
+)
+
+// sumOf is the checksum by the words of P4, of all bytes at once.
+func sumOf(s string) uint64 {
+	var a, b, c, d, e uint64 = 0x9E3779B185EBCA87, 0xC2B2AE3D27D4EB4F, 0x165667B19E3779F9, 0x85EBCA77C2B2AE63, 0x27D4EB2F165667C5
+	lap := func(v, x uint64) uint64 { return bits.RotateLeft64(v+x*b, 31) * a }
+	p := []byte(s)
+	h := e
+	if len(p) >= 32 {
+		lanes := []uint64{a + b, b, 0, -a}
+		for ; len(p) >= 32; p = p[32:] {
+			for k := range lanes {
+				lanes[k] = lap(lanes[k], binary.LittleEndian.Uint64(p[8*k:]))
+			}
+		}
+		h = 0
+		for k, turn := range []int{1, 7, 12, 18} {
+			h += bits.RotateLeft64(lanes[k], turn)
+		}
+		for _, lane := range lanes {
+			h = (h^lap(0, lane))*a + d
+		}
+	}
+	h += uint64(len(s))
+	for ; len(p) >= 8; p = p[8:] {
+		h = bits.RotateLeft64(h^lap(0, binary.LittleEndian.Uint64(p)), 27)*a + d
+	}
+	if len(p) >= 4 {
+		h = bits.RotateLeft64(h^uint64(binary.LittleEndian.Uint32(p))*a, 23)*b + c
+		p = p[4:]
+	}
+	for _, x := range p {
+		h = bits.RotateLeft64(h^uint64(x)*e, 11) * a
+	}
+	h = (h ^ h>>33) * b
+	h = (h ^ h>>29) * c
+	return h ^ h>>32
+}
+
+// model reads frames by the words of P5 to P7 and P11, and stops at the first
+// error by a panic of its number.
+type model struct {
+	s     string
+	limit int
+	out   string
+}
+
+// unknown: the model cannot tell, since a compressed block is there.
+const unknown api.Errno = -1
+
+// modelSays is what s says, or the error that is met first.
+func modelSays(s string, limit int) (out string, e api.Errno) {
+	defer func() {
+		if r := recover(); r != nil {
+			out, e = "", r.(api.Errno)
+		}
+	}()
+	m := model{s: s, limit: limit}
+	for m.s != "" {
+		m.next()
+	}
+	return m.out, api.OK
+}
+
+func fail(when bool, e api.Errno) {
+	if when {
+		panic(e)
+	}
+}
+
+func (m *model) take(n uint64) string {
+	fail(n > uint64(len(m.s)), api.ErrCut)
+	p := m.s[:n]
+	m.s = m.s[n:]
+	return p
+}
+
+func (m *model) number(n uint64) uint64 {
+	var b [8]byte
+	copy(b[:], m.take(n))
+	return binary.LittleEndian.Uint64(b[:])
+}
+
+func (m *model) next() {
+	first := m.number(4)
+	if first>>4 == 0x184D2A5 {
+		m.take(m.number(4))
+		return
+	}
+	fail(first != 0xFD2FB528, api.ErrMagic)
+	d := m.number(1)
+	fail(d>>3&1 == 1, api.ErrHead)
+	single := d>>5&1 == 1
+	var window, size uint64
+	told := true
+	if !single {
+		w := m.number(1)
+		window = (8 + w%8) << (7 + w/8)
+	}
+	dict := m.number([]uint64{0, 1, 2, 4}[d&3])
+	switch {
+	case d>>6 == 0 && single:
+		size = m.number(1)
+	case d>>6 == 0:
+		told = false
+	case d>>6 == 1:
+		size = m.number(2) + 256
+	default:
+		size = m.number(1 << (d >> 6))
+	}
+	if single {
+		window = size
+	}
+	fail(dict != 0, api.ErrDict)
+	fail(window > 134217728, api.ErrWindow)
+	before := len(m.out)
+	for m.block(min(window, 131072)) {
+	}
+	content := m.out[before:]
+	fail(told && size != uint64(len(content)), api.ErrSize)
+	if d>>2&1 == 1 {
+		fail(m.number(4) != sumOf(content)&0xFFFFFFFF, api.ErrCheck)
+	}
+}
+
+// block reads a block and tells whether one more comes.
+func (m *model) block(most uint64) bool {
+	b := m.number(3)
+	kind, n := b>>1&3, b>>3
+	fail(kind == 3 || n > most, api.ErrBlock)
+	var says []byte
+	switch kind {
+	case 0:
+		says = []byte(m.take(n))
+	case 1:
+		x := m.take(1)
+		for range n {
+			says = append(says, x...)
+		}
+	case 2:
+		m.take(n)
+		panic(unknown)
+	}
+	fail(len(m.out)+len(says) > m.limit, api.ErrLimit)
+	m.out += string(says)
+	return b&1 == 0
+}
