@@ -2,7 +2,8 @@ package decode
 
 import "frames/api"
 
-// The types of blocks (P7); type 2, compressed, is not read yet.
+// The types of blocks that are told apart here (P7); what is left is type 2,
+// compressed.
 const (
 	rawType  = 0
 	sameType = 1
@@ -10,14 +11,14 @@ const (
 )
 
 // blocks reads a frame's blocks up to the last one.
-func (d *decoding) blocks(most int) api.Errno {
+func (d *decoding) blocks() api.Errno {
 	last := false
 	for !last {
 		start, there := d.in.number(3)
 		if !there {
 			return api.ErrCut
 		}
-		e := d.block(int(start>>1&3), int(start>>3), most)
+		e := d.block(int(start>>1&3), int(start>>3))
 		if e != api.OK {
 			return e
 		}
@@ -28,8 +29,8 @@ func (d *decoding) blocks(most int) api.Errno {
 
 // block reads the bytes of a block, by its type and its number n, and lets
 // what they say come out.
-func (d *decoding) block(kind int, n int, most int) api.Errno {
-	if kind == noType || n > most {
+func (d *decoding) block(kind int, n int) api.Errno {
+	if kind == noType || n > d.now.most {
 		return api.ErrBlock
 	}
 	width := n
@@ -40,23 +41,37 @@ func (d *decoding) block(kind int, n int, most int) api.Errno {
 	if !there {
 		return api.ErrCut
 	}
+	d.now.given = 0
 	switch kind {
 	case rawType:
 		return d.comeOut(body, 1)
 	case sameType:
 		return d.comeOut(body, n)
 	}
-	return api.ErrBlock
+	return d.compressed(body)
 }
 
-// comeOut lays part behind what came out so far, so many times. The limit is
-// looked at first, so that no more than that is ever laid out.
+// comeOut lays part behind what came out so far, so many times.
 func (d *decoding) comeOut(part string, times int) api.Errno {
-	if len(part)*times > d.limit-len(d.out) {
-		return api.ErrLimit
+	e := d.makeRoom(len(part) * times)
+	if e != api.OK {
+		return e
 	}
 	for i := 0; i < times; i++ {
 		d.out = append(d.out, part...)
 	}
+	return api.OK
+}
+
+// makeRoom is asked ahead of bytes that come out, so that no more than the
+// limit is ever laid out.
+func (d *decoding) makeRoom(n int) api.Errno {
+	if n > d.now.most-d.now.given {
+		return api.ErrBlock
+	}
+	if n > d.limit-len(d.out) {
+		return api.ErrLimit
+	}
+	d.now.given += n
 	return api.OK
 }

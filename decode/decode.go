@@ -4,6 +4,7 @@ package decode
 import (
 	"frames/api"
 	"frames/checksum"
+	"frames/tree"
 )
 
 // The numbers with which things begin (P6).
@@ -17,6 +18,15 @@ type decoding struct {
 	in    reader
 	limit int
 	out   []byte // what came out so far, of all frames
+	now   frame
+}
+
+// frame is what is known of the frame that is being read.
+type frame struct {
+	most    int
+	given   int       // what its last block gave so far
+	tree    tree.Tree // the last one
+	hasTree bool
 }
 
 // Decode tells what the bytes of s say. It never lays out more than limit
@@ -42,7 +52,7 @@ func (d *decoding) next() api.Errno {
 		return api.ErrCut
 	}
 	if magic == frameMagic {
-		return d.frame()
+		return d.readFrame()
 	}
 	if magic >= passMagic && magic < passMagic+16 {
 		return d.passOver()
@@ -63,15 +73,15 @@ func (d *decoding) passOver() api.Errno {
 	return api.OK
 }
 
-// frame reads what stands behind a frame's first number.
-func (d *decoding) frame() api.Errno {
+// readFrame reads what stands behind a frame's first number.
+func (d *decoding) readFrame() api.Errno {
 	h, e := readHead(&d.in)
 	if e != api.OK {
 		return e
 	}
-	most := h.most()
+	d.now = frame{most: h.most()}
 	begin := len(d.out)
-	e = d.blocks(most)
+	e = d.blocks()
 	if e != api.OK {
 		return e
 	}

@@ -22,6 +22,10 @@ func samples() []string {
 		magic + "\xe7" + little(0, 4) + little(2, 8) + same(1, "q", 2) + check("qq"),
 		magic + "\x52\x09" + "\x00\x00" + little(0, 2) + same(0, "x", 255) + same(1, "x", 1),
 		open(0) + same(0, "x", 9) + passed(0, "") + passed(15, magic),
+		open(0) + lits(0, plain(0, 1, 5, "abcde")) + lits(1, plain(1, 0, 9, "f")),
+		open(0) + planted + lits(1, coded(3, 1, 9, four(pair, bitsOf(9)))),
+		magic + "\x04\x00" + lits(0, coded(2, 0, 4, outright(steps)+one(steps, "\x02\x01\x00\x03"))) + raw(1, "z") + check("\x02\x01\x00\x03z"),
+		open(0) + lits(1, coded(2, 1, 7, tabled(5, []int{0, 23, 8, rare}, []int{1, 1, 2, 3})+four([]int{1, 1, 2, 3}, "\x04\x03\x02\x01\x00\x04\x04"))),
 	}
 }
 
@@ -193,6 +197,10 @@ func wrong() []string {
 		magic + "\x20\x05" + raw(1, "left"),
 		magic + "\x04\x00" + raw(1, "left") + "nope",
 		open(0) + same(0, "l", 1000) + same(1, "l", 1000),
+		open(0) + lits(1, coded(3, 0, 1, one(pair, "\x01"))),
+		open(0) + lits(0, coded(2, 0, 2, outright(pair)+one(pair, "\x01\x00"))) + lits(1, coded(3, 0, 9, "\x01")),
+		open(0) + lits(1, coded(2, 0, 2, outright([]int{3, 1})+"\x01")),
+		open(0) + block(1, 2, 5, "\x18left"),
 	}
 }
 

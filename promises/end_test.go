@@ -69,7 +69,7 @@ func TestWhichErrorOfAnEndComesFirst(t *testing.T) {
 	})
 }
 
-// TestFramesByHand: the document's examples, those without compressed blocks.
+// TestFramesByHand: the document's examples, those without sequences.
 func TestFramesByHand(t *testing.T) {
 	hold(t, "Examples", []row{
 		{"none", "", 100, "", api.OK},
@@ -88,6 +88,9 @@ func TestFramesByHand(t *testing.T) {
 		{"type 3", magic + "\x20\x00\x07\x00\x00", 100, "", api.ErrBlock},
 		{"above the window of 2", magic + "\x20\x02\x19\x00\x00abc", 100, "", api.ErrBlock},
 		{"another size", magic + "\x20\x04\x19\x00\x00abc", 100, "", api.ErrSize},
+		{"four literals in one stream", magic + "\x00\x00\x3d\x00\x00\x42\xc0\x00\x80\x10\x16\x00", 100, "\x00\x01\x01\x00", api.OK},
+		{"no literals' head", magic + "\x00\x00\x05\x00\x00", 100, "", api.ErrLits},
+		{"half a number of sequences", magic + "\x00\x00\x15\x00\x00\x00\x80", 100, "", api.ErrSeqs},
 		{"passed over", "\x55\x2a\x4d\x18\x03\x00\x00\x00abc", 100, "", api.OK},
 	})
 }

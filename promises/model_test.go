@@ -44,15 +44,16 @@ func sumOf(s string) uint64 {
 	return h ^ h>>32
 }
 
-// model reads frames by the words of P5 to P7 and P11, and stops at the first
+// model reads frames by the words of P5 to P9 and P11, and stops at the first
 // error by a panic of its number.
 type model struct {
 	s     string
 	limit int
 	out   string
+	codes map[string]byte // those of the frame's last tree, as bits
 }
 
-// unknown: the model cannot tell, since a compressed block is there.
+// unknown: the model cannot tell, since there are sequences.
 const unknown api.Errno = -1
 
 // modelSays is what s says, or the error that is met first.
@@ -121,6 +122,7 @@ func (m *model) next() {
 	fail(dict != 0, api.ErrDict)
 	fail(window > 134217728, api.ErrWindow)
 	before := len(m.out)
+	m.codes = nil
 	for m.block(min(window, 131072)) {
 	}
 	content := m.out[before:]
@@ -145,8 +147,7 @@ func (m *model) block(most uint64) bool {
 			says = append(says, x...)
 		}
 	case 2:
-		m.take(n)
-		panic(unknown)
+		says = []byte(compressed(m.take(n), most, &m.codes))
 	}
 	fail(len(m.out)+len(says) > m.limit, api.ErrLimit)
 	m.out += string(says)
