@@ -13,8 +13,10 @@ func (d *decoding) compressed(body string) api.Errno {
 	if !there {
 		return api.ErrSeqs
 	}
-	// Sequences are not read yet.
-	if count > 0 || len(in.rest) > 0 {
+	if count > 0 {
+		return d.sequences(&in, count, literals)
+	}
+	if len(in.rest) > 0 {
 		return api.ErrSeqs
 	}
 	return d.comeOut(literals, 1)

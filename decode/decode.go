@@ -4,6 +4,8 @@ package decode
 import (
 	"frames/api"
 	"frames/checksum"
+	"frames/distance"
+	"frames/table"
 	"frames/tree"
 )
 
@@ -23,10 +25,15 @@ type decoding struct {
 
 // frame is what is known of the frame that is being read.
 type frame struct {
-	most    int
-	given   int       // what its last block gave so far
-	tree    tree.Tree // the last one
-	hasTree bool
+	window   int
+	most     int
+	begin    int       // where in out it begins
+	given    int       // what its last block gave so far
+	tree     tree.Tree // the last one
+	hasTree  bool
+	tables   [3]table.Table // the last ones, by api.LL, api.OF and api.ML
+	hasTable [3]bool
+	last     distance.Last
 }
 
 // Decode tells what the bytes of s say. It never lays out more than limit
@@ -79,13 +86,12 @@ func (d *decoding) readFrame() api.Errno {
 	if e != api.OK {
 		return e
 	}
-	d.now = frame{most: h.most()}
-	begin := len(d.out)
+	d.now = frame{window: int(h.window), most: h.most(), begin: len(d.out), last: distance.Begin()}
 	e = d.blocks()
 	if e != api.OK {
 		return e
 	}
-	return d.end(h, d.out[begin:])
+	return d.end(h, d.out[d.now.begin:])
 }
 
 // end reads a frame's end (P11) and holds the frame's content against it.

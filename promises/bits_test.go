@@ -10,20 +10,18 @@ import (
 
 // low is v as a number of n bits that is read forward.
 func low(v, n int) string {
-	s := ""
-	for i := range n {
-		s += string('0' + rune(v>>i&1))
+	b := make([]byte, n)
+	for i := range b {
+		b[i] = '0' + byte(v>>i&1)
 	}
-	return s
+	return string(b)
 }
 
 // high is v as a number of n bits that is read backward.
 func high(v, n int) string {
-	s := ""
-	for i := range n {
-		s = string('0'+rune(v>>i&1)) + s
-	}
-	return s
+	b := []byte(low(v, n))
+	slices.Reverse(b)
+	return string(b)
 }
 
 // forward is the bytes that hold the bits when they are read forward.

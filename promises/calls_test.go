@@ -21,11 +21,14 @@ func samples() []string {
 		magic + "\x80\x00" + little(4, 4) + raw(0, "wxy") + raw(1, "z"),
 		magic + "\xe7" + little(0, 4) + little(2, 8) + same(1, "q", 2) + check("qq"),
 		magic + "\x52\x09" + "\x00\x00" + little(0, 2) + same(0, "x", 255) + same(1, "x", 1),
-		open(0) + same(0, "x", 9) + passed(0, "") + passed(15, magic),
+		open(0) + same(1, "x", 9) + passed(0, "") + passed(15, magic),
 		open(0) + lits(0, plain(0, 1, 5, "abcde")) + lits(1, plain(1, 0, 9, "f")),
 		open(0) + planted + lits(1, coded(3, 1, 9, four(pair, bitsOf(9)))),
 		magic + "\x04\x00" + lits(0, coded(2, 0, 4, outright(steps)+one(steps, "\x02\x01\x00\x03"))) + raw(1, "z") + check("\x02\x01\x00\x03z"),
 		open(0) + lits(1, coded(2, 1, 7, tabled(5, []int{0, 23, 8, rare}, []int{1, 1, 2, 3})+four([]int{1, 1, 2, 3}, "\x04\x03\x02\x01\x00\x04\x04"))),
+		open(0) + alone(1, text("abcd"), seq{3, 6, 9}),
+		magic + "\x04\x00" + sequenced(0, text("abcd"), allUsual(), seq{3, 5, 9}, seq{1, 2, 4}) + sequenced(1, text(""), allUsual().again(), seq{0, 1, 3}) + check(carried("", "abcd", seq{3, 5, 9}, seq{1, 4, 4}, seq{0, 5, 3})),
+		open(0) + raw(0, "abcdefgh") + sequenced(1, text("ij"), tabs{all(0, 2), only(1), all(2, 2)}, seq{0, 2, 7}, seq{2, 3, 8}),
 	}
 }
 
@@ -35,7 +38,7 @@ func TestNewIsNotNil(t *testing.T) {
 	}
 }
 
-// agree holds an answer against the model's, where the model has one.
+// agree holds an answer against the model's.
 func agree(t *testing.T, d *frames.Decoder, s string, limit, slack int) {
 	t.Helper()
 	out, e := d.Decode(s, limit, slack)
@@ -43,8 +46,16 @@ func agree(t *testing.T, d *frames.Decoder, s string, limit, slack int) {
 		t.Fatalf("P1: Decode(%x, %d, %d) = %q beside the error %d", s, limit, slack, out, e)
 	}
 	want, f := modelSays(s, limit)
-	if f != unknown && (out != want || e != f) {
+	if out != want || e != f {
 		t.Fatalf("P5: Decode(%x, %d, %d) = %q, %d, want %q, %d", s, limit, slack, out, e, want, f)
+	}
+}
+
+// agreeAlways holds an answer of a decoder of its own against the model's.
+func agreeAlways(t *testing.T, s string, limit int) {
+	t.Helper()
+	for _, slack := range []int{0, api.MaxSlack} {
+		agree(t, frames.NewDecoder(), s, limit, slack)
 	}
 }
 
@@ -201,6 +212,26 @@ func wrong() []string {
 		open(0) + lits(0, coded(2, 0, 2, outright(pair)+one(pair, "\x01\x00"))) + lits(1, coded(3, 0, 9, "\x01")),
 		open(0) + lits(1, coded(2, 0, 2, outright([]int{3, 1})+"\x01")),
 		open(0) + block(1, 2, 5, "\x18left"),
+		open(0) + alone(0, text("left"), seq{2, 7, 9}) + sequenced(1, text("over"), allUsual(), seq{9, 4, 3}),
+		open(0) + raw(0, "left over") + sequenced(1, text("ab"), allUsual().again(), seq{1, 4, 3}),
+		open(0) + alone(0, text("left"), seq{2, 5, 9}) + alone(1, text("over"), seq{2, 70, 9}),
+		open(0) + alone(0, text("left"), seq{4, 7, 1000}) + alone(1, text("over"), seq{2, 4, 1000}),
+		open(0) + raw(0, "left over") + streamed(1, text("ab"), onlyOf(seq{1, 4, 3}), 2, backward("00")),
+		open(0) + raw(0, "left over") + alone(1, text("ab"), seq{0, 3, 3}),
+	}
+}
+
+func TestSamplesAreGood(t *testing.T) {
+	d := frames.NewDecoder()
+	for _, s := range samples() {
+		if _, e := d.Decode(s, 1500, 0); e != api.OK {
+			t.Errorf("%x is answered %d", s, e)
+		}
+	}
+	for _, s := range wrong() {
+		if _, e := d.Decode(s, 1500, 0); e == api.OK {
+			t.Errorf("%x is good", s)
+		}
 	}
 }
 

@@ -69,7 +69,7 @@ func TestWhichErrorOfAnEndComesFirst(t *testing.T) {
 	})
 }
 
-// TestFramesByHand: the document's examples, those without sequences.
+// TestFramesByHand: the document's examples.
 func TestFramesByHand(t *testing.T) {
 	hold(t, "Examples", []row{
 		{"none", "", 100, "", api.OK},
@@ -88,6 +88,12 @@ func TestFramesByHand(t *testing.T) {
 		{"type 3", magic + "\x20\x00\x07\x00\x00", 100, "", api.ErrBlock},
 		{"above the window of 2", magic + "\x20\x02\x19\x00\x00abc", 100, "", api.ErrBlock},
 		{"another size", magic + "\x20\x04\x19\x00\x00abc", 100, "", api.ErrSize},
+		{"three literals, then five bytes from three back", magic + "\x00\x00\x55\x00\x00\x18abc\x01\x54\x03\x02\x02\x06", 100, "abcabcab", api.OK},
+		{"one literal, ten bytes from one back", magic + "\x00\x00\x45\x00\x00\x08a\x01\x54\x01\x02\x07\x04", 100, "aaaaaaaaaaa", api.OK},
+		{"the first of the last three", magic + "\x00\x00\x4d\x00\x00\x10ab\x01\x54\x02\x00\x00\x01", 100, "abbbb", api.OK},
+		{"no last table", magic + "\x00\x00\x1d\x00\x00\x00\x01\xfc", 100, "", api.ErrTable},
+		{"too far back", magic + "\x00\x00\x4d\x00\x00\x10ab\x01\x54\x02\x01\x00\x02", 100, "", api.ErrOffset},
+		{"a bit too many", magic + "\x00\x00\x4d\x00\x00\x10ab\x01\x54\x02\x00\x00\x02", 100, "", api.ErrStream},
 		{"four literals in one stream", magic + "\x00\x00\x3d\x00\x00\x42\xc0\x00\x80\x10\x16\x00", 100, "\x00\x01\x01\x00", api.OK},
 		{"no literals' head", magic + "\x00\x00\x05\x00\x00", 100, "", api.ErrLits},
 		{"half a number of sequences", magic + "\x00\x00\x15\x00\x00\x00\x80", 100, "", api.ErrSeqs},

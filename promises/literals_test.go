@@ -318,29 +318,6 @@ func TestStreams(t *testing.T) {
 	hold(t, "P8", rows)
 }
 
-func TestHowManySequences(t *testing.T) {
-	none := func(count string) string { return wide + block(1, 2, 4+len(count), "\x18abc"+count) }
-	hold(t, "P10", []row{
-		{"none", none("\x00"), 9, "abc", api.OK},
-		{"none, told in two bytes", none("\x80\x00"), 9, "abc", api.OK},
-		{"not there", none(""), 9, "", api.ErrSeqs},
-		{"the second byte is not there", none("\x80"), 9, "", api.ErrSeqs},
-		{"the second byte of many is not there", none("\xfe"), 9, "", api.ErrSeqs},
-		{"the next two bytes are not there", none("\xff"), 9, "", api.ErrSeqs},
-		{"the last of two bytes is not there", none("\xff\x00"), 9, "", api.ErrSeqs},
-		{"something behind none", none("\x00\x00"), 9, "", api.ErrSeqs},
-		{"something behind none, told in two bytes", none("\x80\x00\x00"), 9, "", api.ErrSeqs},
-		{"much behind none", none("\x00" + xs(50)), 9, "", api.ErrSeqs},
-		{"one, and no modes", none("\x01"), 9, "", api.ErrSeqs},
-		{"one, told in two bytes, and no modes", none("\x80\x01"), 9, "", api.ErrSeqs},
-		{"256, and no modes", none("\x81\x00"), 9, "", api.ErrSeqs},
-		{"32512, and no modes", none("\xff\x00\x00"), 9, "", api.ErrSeqs},
-		{"a bit of the modes that must not be set", none("\x01\x01" + xs(9)), 9, "", api.ErrSeqs},
-		{"another", none("\x01\x02" + xs(9)), 9, "", api.ErrSeqs},
-		{"none of no literals", wide + block(1, 2, 2, "\x00\x00"), 0, "", api.OK},
-	})
-}
-
 func TestWhichErrorOfLiteralsComesFirst(t *testing.T) {
 	good := one(pair, "\x00\x01\x01")
 	noTree := outright([]int{2})

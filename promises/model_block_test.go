@@ -2,6 +2,7 @@ package promises
 
 import (
 	"slices"
+	"strconv"
 
 	"frames/api"
 )
@@ -63,10 +64,9 @@ func highest(bits string) int {
 	return x
 }
 
-// compressed is what a compressed block says (P8, and P10 where there are no
-// sequences).
-func compressed(s string, most uint64, codes *map[string]byte) string {
-	says := literals(&s, most, codes)
+// compressed reads a compressed block.
+func (m *model) compressed(s string) {
+	says := literals(&s, uint64(m.most), &m.codes)
 	a := pullNumber(&s, 1, api.ErrSeqs)
 	switch {
 	case a == 255:
@@ -75,10 +75,11 @@ func compressed(s string, most uint64, codes *map[string]byte) string {
 		a = (a-128)*256 + pullNumber(&s, 1, api.ErrSeqs)
 	}
 	if a > 0 {
-		panic(unknown)
+		m.sequences(s, a, says)
+		return
 	}
 	fail(s != "", api.ErrSeqs)
-	return says
+	m.give(says)
 }
 
 func literals(s *string, most uint64, codes *map[string]byte) string {
@@ -179,11 +180,10 @@ func readTree(s *string) map[string]byte {
 
 // trimmed is x in binary.
 func trimmed(x int) string {
-	bits := high(x, 30)
-	for bits != "" && bits[0] == '0' {
-		bits = bits[1:]
+	if x == 0 {
+		return ""
 	}
-	return bits
+	return strconv.FormatInt(int64(x), 2)
 }
 
 // tableWeights is the weights that a table and the stream behind it tell.

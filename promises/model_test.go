@@ -3,6 +3,7 @@ package promises
 import (
 	"encoding/binary"
 	"math/bits"
+	"strings"
 
 	"frames/api"
 )
@@ -44,17 +45,20 @@ func sumOf(s string) uint64 {
 	return h ^ h>>32
 }
 
-// model reads frames by the words of P5 to P9 and P11, and stops at the first
-// error by a panic of its number.
+// model reads frames by the words of P5 to P11, and stops at the first error by
+// a panic of its number.
 type model struct {
 	s     string
 	limit int
-	out   string
-	codes map[string]byte // those of the frame's last tree, as bits
+	out   []byte
+	// Of the frame:
+	window, most, before int
+	codes                map[string]byte // those of its last tree, as bits
+	tables               [3][]place      // its last ones
+	last                 []int           // its last three distances
+	// Of the block:
+	given int
 }
-
-// unknown: the model cannot tell, since there are sequences.
-const unknown api.Errno = -1
 
 // modelSays is what s says, or the error that is met first.
 func modelSays(s string, limit int) (out string, e api.Errno) {
@@ -67,7 +71,7 @@ func modelSays(s string, limit int) (out string, e api.Errno) {
 	for m.s != "" {
 		m.next()
 	}
-	return m.out, api.OK
+	return string(m.out), api.OK
 }
 
 func fail(when bool, e api.Errno) {
@@ -121,11 +125,11 @@ func (m *model) next() {
 	}
 	fail(dict != 0, api.ErrDict)
 	fail(window > 134217728, api.ErrWindow)
-	before := len(m.out)
-	m.codes = nil
-	for m.block(min(window, 131072)) {
+	m.window, m.most, m.before = int(window), min(int(window), 131072), len(m.out)
+	m.codes, m.tables, m.last = nil, [3][]place{}, []int{1, 4, 8}
+	for m.block() {
 	}
-	content := m.out[before:]
+	content := string(m.out[m.before:])
 	fail(told && size != uint64(len(content)), api.ErrSize)
 	if d>>2&1 == 1 {
 		fail(m.number(4) != sumOf(content)&0xFFFFFFFF, api.ErrCheck)
@@ -133,23 +137,30 @@ func (m *model) next() {
 }
 
 // block reads a block and tells whether one more comes.
-func (m *model) block(most uint64) bool {
+func (m *model) block() bool {
 	b := m.number(3)
 	kind, n := b>>1&3, b>>3
-	fail(kind == 3 || n > most, api.ErrBlock)
-	var says []byte
+	fail(kind == 3 || n > uint64(m.most), api.ErrBlock)
+	m.given = 0
 	switch kind {
 	case 0:
-		says = []byte(m.take(n))
+		m.give(m.take(n))
 	case 1:
-		x := m.take(1)
-		for range n {
-			says = append(says, x...)
-		}
+		m.give(strings.Repeat(m.take(1), int(n)))
 	case 2:
-		says = []byte(compressed(m.take(n), most, &m.codes))
+		m.compressed(m.take(n))
 	}
-	fail(len(m.out)+len(says) > m.limit, api.ErrLimit)
-	m.out += string(says)
 	return b&1 == 0
+}
+
+// room is P7's errors for n bytes that are to come out.
+func (m *model) room(n int) {
+	m.given += n
+	fail(m.given > m.most, api.ErrBlock)
+	fail(len(m.out)+n > m.limit, api.ErrLimit)
+}
+
+func (m *model) give(s string) {
+	m.room(len(s))
+	m.out = append(m.out, s...)
 }

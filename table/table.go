@@ -13,11 +13,17 @@ type state struct {
 	next   int
 }
 
-// Table is the states of a table. The zero value has one state, which says 0
-// and needs no bits.
+// Table is the states of a table.
 type Table struct {
 	accuracy int
 	states   [1 << MaxAccuracy]state
+}
+
+// One makes a table of one state, which says symbol and needs no bits.
+func One(symbol int) Table {
+	t := Table{}
+	t.states[0].symbol = symbol
+	return t
 }
 
 // Lay makes the table of a head that is one.
