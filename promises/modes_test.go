@@ -327,3 +327,21 @@ func TestOneCodeHasAllStates(t *testing.T) {
 	}
 	hold(t, "P10", rows)
 }
+
+// TestRareCodesAlone: all states are rare ones', the first one that of code 31.
+func TestRareCodesAlone(t *testing.T) {
+	rares := written(5, times(32, rare)...)
+	lits := letters(60)
+	var rows []row
+	for ml := 3; ml < 35; ml++ {
+		b := tabs{rares, rares, rares}
+		qs := []seq{{16 + ml%16, 60 - ml, ml}, {ml % 3, 10 + ml, 37 - ml}, {4, 30, ml}}
+		bits := high(31-codeOf(api.LL, qs[0].ll), 5) + high(31-codeOf(api.OF, qs[0].of), 5) + high(34-ml, 5) + values(qs[0])
+		for i := 1; i < 3; i++ {
+			bits += high(31-codeOf(api.LL, qs[i].ll), 5) + high(34-qs[i].ml, 5) + high(31-codeOf(api.OF, qs[i].of), 5) + values(qs[i])
+		}
+		s := wide + raw(0, base()) + streamed(1, text(lits), b, 3, backward(bits))
+		rows = append(rows, row{"rare codes", s, 999, carried(base(), lits, qs...), api.OK})
+	}
+	hold(t, "P9", rows)
+}
