@@ -1,4 +1,5 @@
-// Package bits reads numbers out of bits, forward and backward.
+// Package bits reads numbers out of bits, forward and backward, and lays them
+// down.
 package bits
 
 // Forward reads from the first byte on, of each byte the lowest bit first.

@@ -54,3 +54,16 @@ func first(t int) int {
 	}
 	return 3
 }
+
+// Of is the code of the table t among whose values v is.
+func Of(t int, v int) int {
+	top := api.Top(t)
+	end := first(t)
+	for code := 0; code < top; code++ {
+		end += 1 << More(t, code)
+		if v < end {
+			return code
+		}
+	}
+	return top
+}

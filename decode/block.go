@@ -1,13 +1,8 @@
 package decode
 
-import "frames/api"
-
-// The types of blocks that are told apart here (P7); what is left is type 2,
-// compressed.
-const (
-	rawType  = 0
-	sameType = 1
-	noType   = 3
+import (
+	"frames/api"
+	"frames/layout"
 )
 
 // blocks reads a frame's blocks up to the last one.
@@ -30,11 +25,11 @@ func (d *decoding) blocks() api.Errno {
 // block reads the bytes of a block, by its type and its number n, and lets
 // what they say come out.
 func (d *decoding) block(kind int, n int) api.Errno {
-	if kind == noType || n > d.now.most {
+	if kind == layout.NoType || n > d.now.most {
 		return api.ErrBlock
 	}
 	width := n
-	if kind == sameType {
+	if kind == layout.SameType {
 		width = 1
 	}
 	body, there := d.in.take(width)
@@ -43,9 +38,9 @@ func (d *decoding) block(kind int, n int) api.Errno {
 	}
 	d.now.given = 0
 	switch kind {
-	case rawType:
+	case layout.RawType:
 		return d.comeOut(body, 1)
-	case sameType:
+	case layout.SameType:
 		return d.comeOut(body, n)
 	}
 	return d.compressed(body)

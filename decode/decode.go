@@ -5,15 +5,13 @@ import (
 	"frames/api"
 	"frames/checksum"
 	"frames/distance"
+	"frames/layout"
 	"frames/table"
 	"frames/tree"
 )
 
-// The numbers with which things begin (P6).
-const (
-	frameMagic = 0xFD2FB528
-	passMagic  = 0x184D2A50 // the first of 16
-)
+// passMagic is the first of 16 numbers with which begins what is passed over.
+const passMagic = 0x184D2A50
 
 // decoding is one call's work: nothing of it outlives the call.
 type decoding struct {
@@ -58,7 +56,7 @@ func (d *decoding) next() api.Errno {
 	if !there {
 		return api.ErrCut
 	}
-	if magic == frameMagic {
+	if magic == layout.FrameMagic {
 		return d.readFrame()
 	}
 	if magic >= passMagic && magic < passMagic+16 {
@@ -86,7 +84,7 @@ func (d *decoding) readFrame() api.Errno {
 	if e != api.OK {
 		return e
 	}
-	d.now = frame{window: int(h.window), most: h.most(), begin: len(d.out), last: distance.Begin()}
+	d.now = frame{window: int(h.window), most: layout.Most(h.window), begin: len(d.out), last: distance.Begin()}
 	e = d.blocks()
 	if e != api.OK {
 		return e

@@ -1,12 +1,8 @@
 package decode
 
-import "frames/api"
-
-// The bits of a descriptor that stand alone (P6).
-const (
-	checkBit    = 1 << 2
-	reservedBit = 1 << 3
-	singleBit   = 1 << 5
+import (
+	"frames/api"
+	"frames/layout"
 )
 
 // head is what a frame says of itself ahead of its blocks.
@@ -17,14 +13,6 @@ type head struct {
 	check  bool   // a checksum stands at the end
 }
 
-// most: no block of the frame has or gives more bytes.
-func (h *head) most() int {
-	if h.window < api.MaxBlock {
-		return int(h.window)
-	}
-	return api.MaxBlock
-}
-
 // readHead reads what stands behind a frame's first number. All of it must be
 // there before any of it but the descriptor is found fault with.
 func readHead(in *reader) (head, api.Errno) {
@@ -32,7 +20,7 @@ func readHead(in *reader) (head, api.Errno) {
 	if !there {
 		return head{}, api.ErrCut
 	}
-	if descriptor&reservedBit != 0 {
+	if descriptor&layout.ReservedBit != 0 {
 		return head{}, api.ErrHead
 	}
 	w, there := in.number(windowWidth(descriptor))
@@ -61,27 +49,20 @@ func readHead(in *reader) (head, api.Errno) {
 func makeHead(descriptor uint64, w uint64, size uint64) head {
 	width := sizeWidth(descriptor)
 	if width == 2 {
-		// One byte tells the sizes below 256, so two bytes begin there.
-		size += 256
+		size += layout.SizeBase
 	}
-	h := head{told: width > 0, size: size, check: descriptor&checkBit != 0}
-	if descriptor&singleBit != 0 {
+	h := head{told: width > 0, size: size, check: descriptor&layout.CheckBit != 0}
+	if descriptor&layout.SingleBit != 0 {
 		h.window = size
 	} else {
-		h.window = windowOf(w)
+		h.window = layout.Window(byte(w))
 	}
 	return h
 }
 
-// windowOf is the window that the byte w tells.
-func windowOf(w uint64) uint64 {
-	p := uint64(1) << (10 + w/8)
-	return p + p/8*(w%8)
-}
-
 // windowWidth: how many bytes tell the window.
 func windowWidth(descriptor uint64) int {
-	if descriptor&singleBit != 0 {
+	if descriptor&layout.SingleBit != 0 {
 		return 0
 	}
 	return 1
@@ -102,9 +83,9 @@ func dictionaryWidth(descriptor uint64) int {
 
 // sizeWidth: how many bytes tell the size.
 func sizeWidth(descriptor uint64) int {
-	switch descriptor >> 6 {
+	switch descriptor >> layout.SizeShift {
 	case 0:
-		if descriptor&singleBit != 0 {
+		if descriptor&layout.SingleBit != 0 {
 			return 1
 		}
 		return 0

@@ -2,19 +2,9 @@ package decode
 
 import (
 	"frames/api"
+	"frames/layout"
 	"frames/tree"
 )
-
-// The kinds of literals (P8).
-const (
-	rawKind   = 0
-	sameKind  = 1
-	treeKind  = 2 // told by codes, and the tree stands ahead of them
-	againKind = 3 // told by the codes of the last tree
-)
-
-// leastInFour: of fewer literals the fourth stream would say less than none.
-const leastInFour = 6
 
 // litHead is what literals say of themselves.
 type litHead struct {
@@ -27,7 +17,7 @@ type litHead struct {
 // literals reads the literals of a compressed block.
 func (d *decoding) literals(in *reader) (string, api.Errno) {
 	h, there := readLitHead(in)
-	if !there || h.size > d.now.most || h.four && h.size < leastInFour {
+	if !there || h.size > d.now.most || h.four && h.size < layout.LeastInFour {
 		return "", api.ErrLits
 	}
 	body, there := in.take(h.width)
@@ -35,9 +25,9 @@ func (d *decoding) literals(in *reader) (string, api.Errno) {
 		return "", api.ErrLits
 	}
 	switch h.kind {
-	case rawKind:
+	case layout.RawKind:
 		return body, api.OK
-	case sameKind:
+	case layout.SameKind:
 		return again(body, h.size), api.OK
 	}
 	return d.coded(h, body)
@@ -50,7 +40,7 @@ func readLitHead(in *reader) (litHead, bool) {
 	}
 	kind := int(in.rest[0] & 3)
 	form := int(in.rest[0] >> 2 & 3)
-	if kind == treeKind || kind == againKind {
+	if kind == layout.TreeKind || kind == layout.AgainKind {
 		return readCodedHead(in, kind, form)
 	}
 	x, there := in.number(plainWidth(form))
@@ -61,7 +51,7 @@ func readLitHead(in *reader) (litHead, bool) {
 	if form == 0 || form == 2 {
 		size = int(x >> 3)
 	}
-	if kind == sameKind {
+	if kind == layout.SameKind {
 		return litHead{kind: kind, size: size, width: 1}, true
 	}
 	return litHead{kind: kind, size: size, width: size}, true
@@ -115,7 +105,7 @@ func again(part string, n int) string {
 // coded reads literals that are told by codes.
 func (d *decoding) coded(h litHead, body string) (string, api.Errno) {
 	streams := body
-	if h.kind == treeKind {
+	if h.kind == layout.TreeKind {
 		t, rest, fit := tree.Read(body)
 		if !fit {
 			return "", api.ErrTree

@@ -2,6 +2,7 @@ package decode
 
 import (
 	"frames/bits"
+	"frames/layout"
 	"frames/tree"
 )
 
@@ -41,8 +42,7 @@ func fromFour(t *tree.Tree, s string, n int) (string, bool) {
 	if !there {
 		return "", false
 	}
-	quarter := (n + 3) / 4
-	shares := [4]int{quarter, quarter, quarter, n - 3*quarter}
+	shares := layout.Quarters(n)
 	said := ""
 	for i := 0; i < 4; i++ {
 		more, fit := fromOne(t, parts[i], shares[i])

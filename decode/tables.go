@@ -4,15 +4,8 @@ import (
 	"frames/api"
 	"frames/bits"
 	"frames/codes"
+	"frames/layout"
 	"frames/table"
-)
-
-// The modes of tables (P10) that are told apart here; what is left is mode 3,
-// the last one again.
-const (
-	usualMode = 0
-	oneMode   = 1
-	headMode  = 2
 )
 
 // readTables reads the modes of a block's three tables, and the tables.
@@ -21,9 +14,9 @@ func (d *decoding) readTables(in *reader) api.Errno {
 	if !there || modes&3 != 0 {
 		return api.ErrSeqs
 	}
-	shifts := [3]int{6, 4, 2} // of LL, OF and ML
 	for t := 0; t < 3; t++ {
-		fit := d.readTable(in, t, int(modes>>shifts[t]&3))
+		mode := int(modes>>layout.ModeShift(t)) & 3
+		fit := d.readTable(in, t, mode)
 		if !fit {
 			return api.ErrTable
 		}
@@ -35,11 +28,11 @@ func (d *decoding) readTables(in *reader) api.Errno {
 func (d *decoding) readTable(in *reader, t int, mode int) bool {
 	fit := true
 	switch mode {
-	case usualMode:
+	case layout.UsualMode:
 		d.now.tables[t] = table.Lay(codes.Usual(t))
-	case oneMode:
+	case layout.OneMode:
 		fit = d.readOne(in, t)
-	case headMode:
+	case layout.HeadMode:
 		fit = d.readLaid(in, t)
 	default:
 		return d.now.hasTable[t]

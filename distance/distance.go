@@ -66,3 +66,19 @@ func (l *Last) Use(v int, literals int) {
 	l.second = l.first
 	l.first = used
 }
+
+// Outright is the value of an offset that means d whatever the last three are.
+func Outright(d int) int {
+	return d + known
+}
+
+// Told is the value of an offset that means d behind so many literals: the
+// least of those that mean one of the last three, where one does.
+func (l *Last) Told(d int, literals int) int {
+	for v := 1; v <= known; v++ {
+		if l.Meant(v, literals) == d {
+			return v
+		}
+	}
+	return Outright(d)
+}

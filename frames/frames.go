@@ -5,6 +5,7 @@ import (
 	"frames/api"
 	"frames/checksum"
 	"frames/decode"
+	"frames/encode"
 )
 
 // Decoder decodes bytes.
@@ -26,7 +27,7 @@ func NewEncoder() *Encoder { return &Encoder{} }
 
 // Encode writes a frame as the choice has it (P12 to P16).
 func (x *Encoder) Encode(src string, ch api.Choice) (string, api.Errno) {
-	return "", api.OK
+	return encode.Encode(src, ch)
 }
 
 // Sum is a checksum under way.

@@ -66,7 +66,9 @@ func highest(bits string) int {
 
 // compressed reads a compressed block.
 func (m *model) compressed(s string) {
+	first := s
 	says := literals(&s, uint64(m.most), &m.codes)
+	m.noting().lits, m.noting().lkind, m.noting().form = says, int(first[0]&3), int(first[0]>>2&3)
 	a := pullNumber(&s, 1, api.ErrSeqs)
 	switch {
 	case a == 255:

@@ -49,6 +49,7 @@ func (m *model) sequences(s string, count int, lits string) {
 	fail(modes%4 > 0, api.ErrSeqs)
 	for t, mode := range []int{modes / 64, modes / 16 % 4, modes / 4 % 4} {
 		m.table(&s, t, mode)
+		m.noting().modes[t] = mode
 	}
 	bits := behind(s, api.ErrStream)
 	read := func(n int) int {
@@ -79,6 +80,8 @@ func (m *model) sequences(s string, count int, lits string) {
 		lits = lits[v[api.LL]:]
 		d := m.distance(v[api.OF], v[api.LL])
 		fail(d <= 0 || d > len(m.out)-m.before || d > m.window, api.ErrOffset)
+		m.noting().seqs = append(m.noting().seqs, seq{v[api.LL], v[api.OF], v[api.ML]})
+		m.noting().backs = append(m.noting().backs, d)
 		for range v[api.ML] {
 			m.out = append(m.out, m.out[len(m.out)-d])
 		}

@@ -58,6 +58,22 @@ type model struct {
 	last                 []int           // its last three distances
 	// Of the block:
 	given int
+	// What was read so far:
+	heads []string // of frames, from the descriptor on
+	notes []note   // of the blocks of all frames
+}
+
+// note is what was read of a block.
+type note struct {
+	kind  int    // its type
+	n     int    // its number
+	said  string // what came out
+	lits  string // its literals, their kind and their form
+	lkind int
+	form  int
+	modes [3]int // of its tables, where there are sequences
+	seqs  []seq
+	backs []int // how far back the sequences go
 }
 
 // modelSays is what s says, or the error that is met first.
@@ -100,6 +116,7 @@ func (m *model) next() {
 		return
 	}
 	fail(first != 0xFD2FB528, api.ErrMagic)
+	from := m.s
 	d := m.number(1)
 	fail(d>>3&1 == 1, api.ErrHead)
 	single := d>>5&1 == 1
@@ -127,6 +144,7 @@ func (m *model) next() {
 	fail(window > 134217728, api.ErrWindow)
 	m.window, m.most, m.before = int(window), min(int(window), 131072), len(m.out)
 	m.codes, m.tables, m.last = nil, [3][]place{}, []int{1, 4, 8}
+	m.heads = append(m.heads, from[:len(from)-len(m.s)])
 	for m.block() {
 	}
 	content := string(m.out[m.before:])
@@ -142,6 +160,8 @@ func (m *model) block() bool {
 	kind, n := b>>1&3, b>>3
 	fail(kind == 3 || n > uint64(m.most), api.ErrBlock)
 	m.given = 0
+	m.notes = append(m.notes, note{kind: int(kind), n: int(n)})
+	so := len(m.out)
 	switch kind {
 	case 0:
 		m.give(m.take(n))
@@ -150,7 +170,13 @@ func (m *model) block() bool {
 	case 2:
 		m.compressed(m.take(n))
 	}
+	m.noting().said = string(m.out[so:])
 	return b&1 == 0
+}
+
+// noting is the note of the block that is being read.
+func (m *model) noting() *note {
+	return &m.notes[len(m.notes)-1]
 }
 
 // room is P7's errors for n bytes that are to come out.

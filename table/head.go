@@ -48,14 +48,19 @@ func ReadHead(in *bits.Forward, topAccuracy int, topSymbol int) (Head, bool) {
 	return h, true
 }
 
-// readShare reads a number of 0 to top. It takes a bit less where it is small,
-// since not all the numbers of so many bits are needed.
-func readShare(in *bits.Forward, top int) (int, bool) {
+// shareWidth is how many bits a number of 0 to top has, and how many numbers of
+// so many bits are not needed: so many small ones take a bit less.
+func shareWidth(top int) (int, int) {
 	n := 0
 	for top>>n > 0 {
 		n++
 	}
-	spare := 1<<n - 1 - top
+	return n, 1<<n - 1 - top
+}
+
+// readShare reads a number of 0 to top, which is at least 1.
+func readShare(in *bits.Forward, top int) (int, bool) {
+	n, spare := shareWidth(top)
 	v, there := in.Read(n - 1)
 	if !there {
 		return 0, false

@@ -14,6 +14,7 @@ const MaxTold = 255
 type Tree struct {
 	log     int
 	weights [MaxTold + 1]int       // of the symbols; 0: no code
+	firsts  [MaxTold + 1]int       // the first numbers of log bits that begin with their codes
 	symbols [1 << api.MaxBits]byte // whose code each number of log bits begins with
 }
 
@@ -96,6 +97,7 @@ func (t *Tree) lay() {
 
 // layOne lays a symbol's code and tells the number behind it.
 func (t *Tree) layOne(symbol int, number int) int {
+	t.firsts[symbol] = number
 	end := number + numbers(t.weights[symbol])
 	for i := number; i < end; i++ {
 		t.symbols[i] = byte(symbol)
